@@ -47,12 +47,10 @@ func formed(p part) api.Errno {
 	return e
 }
 
-// mustBeNames gives up if one of the strings is no name.
-func mustBeNames(l ...string) {
-	for _, s := range l {
-		if !Name(s) {
-			refuse(api.ErrArg)
-		}
+// mustBeName gives up for a string that is no name.
+func mustBeName(s string) {
+	if !Name(s) {
+		refuse(api.ErrArg)
 	}
 }
 

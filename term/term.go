@@ -58,7 +58,7 @@ func Defines(t api.Term) (channels, places []string, e api.Errno) {
 func Put(t api.Term, x string, e api.TermExp) (api.Term, api.Errno) {
 	return attempt(func() api.Term {
 		mustBeFormed(process(t))
-		mustBeNames(x)
+		mustBeName(x)
 		mustBeFormed(expression(e))
 		used := written(process(t))
 		maps.Copy(used, written(expression(e)))
