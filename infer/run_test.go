@@ -193,14 +193,13 @@ func (w *running) react(r reaction) {
 	w.todo = append(w.todo, todo{r.Kids[0], env})
 }
 
-// P4.6: what types does not go wrong.
-func TestRuns(t *testing.T) {
-	typed, wrong := 0, 0
-	processes(t, 5000, func(seed int64, u api.Term) {
+// runs returns how many runs there are of processes that type, none of which may go wrong, and how many others go wrong.
+func runs(t *testing.T, many, each int, wrongRun func(u api.Term, r *rand.Rand) bool) (typed, wrong int) {
+	processes(t, many, func(seed int64, u api.Term) {
 		_, e := infer.Infer(u)
 		r := rand.New(rand.NewSource(seed))
-		for range 8 {
-			went := goesWrong(u, r)
+		for range each {
+			went := wrongRun(u, r)
 			switch {
 			case e == api.OK && went:
 				t.Fatal(seed, source(u))
@@ -211,7 +210,12 @@ func TestRuns(t *testing.T) {
 			}
 		}
 	})
-	if typed < 3000 || wrong < 3000 {
+	return typed, wrong
+}
+
+// P4.6: what types does not go wrong.
+func TestRuns(t *testing.T) {
+	if typed, wrong := runs(t, 5000, 8, goesWrong); typed < 3000 || wrong < 3000 {
 		t.Error("too few of one kind:", typed, wrong)
 	}
 }

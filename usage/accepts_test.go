@@ -6,6 +6,7 @@ import (
 	"testing"
 
 	"cabotage/api"
+	"cabotage/internal/sample"
 	"cabotage/usage"
 )
 
@@ -132,7 +133,7 @@ func TestAcceptsRefused(t *testing.T) {
 			t.Error(p, u, is, e)
 		}
 	}
-	for _, p := range unformed() {
+	for _, p := range sample.Unformed(example) {
 		refused(p, table(found))
 		refused(p, nil)
 	}

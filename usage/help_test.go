@@ -7,8 +7,7 @@ import (
 	"testing"
 
 	"cabotage/api"
-	"cabotage/read"
-	"cabotage/scope"
+	"cabotage/internal/sample"
 )
 
 // example is the process of the chapter's examples.
@@ -16,11 +15,7 @@ const example = "def x(a) = a(1) | a(2) and y(b) & z(c) = b(c) in y(out) | z(x) 
 
 // program is the program of a source.
 func program(s string) api.ScopeProg {
-	t, e := read.Parse(s)
-	if e != api.OK {
-		panic(fmt.Sprint(s, ": ", e))
-	}
-	p, e := scope.Bind(t)
+	p, e := sample.Program(s)
 	if e != api.OK {
 		panic(fmt.Sprint(s, ": ", e))
 	}
@@ -143,32 +138,6 @@ func notBelow(t, u []api.UsageDef) bool {
 }
 
 func name(n int) api.ScopeExp { return api.ScopeExp{Op: api.TermName, N: n} }
-
-// unformed are programs that are not formed, each in another way.
-func unformed() []api.ScopeProg {
-	changed := func(f func(p *api.ScopeProg)) api.ScopeProg {
-		p := program(example)
-		f(&p)
-		return p
-	}
-	circle := make([]api.ScopeExp, 2)
-	circle[0], circle[1] = api.ScopeExp{Op: api.TermAdd, Kids: circle}, name(0)
-	return []api.ScopeProg{
-		{}, {Main: 1, Nodes: []api.ScopeNode{{Op: api.TermNil}}}, {Nodes: []api.ScopeNode{{Op: api.TermSend}}}, {Nodes: []api.ScopeNode{{Op: api.TermDef, Kids: []int{0}}}},
-		{Nodes: []api.ScopeNode{{Op: api.TermPar, Kids: []int{0, 0}}}}, {Nodes: []api.ScopeNode{{Op: 99}}}, {Nodes: make([]api.ScopeNode, 61)},
-		changed(func(p *api.ScopeProg) { p.Free[0] = "in" }),
-		changed(func(p *api.ScopeProg) { p.Main = -1 }),
-		changed(func(p *api.ScopeProg) { p.Main = len(p.Nodes) }),
-		changed(func(p *api.ScopeProg) { p.Nodes[0].N = 2 }),
-		changed(func(p *api.ScopeProg) { p.Nodes = append(p.Nodes, api.ScopeNode{Op: api.TermNil}) }),
-		changed(func(p *api.ScopeProg) { p.Defs = append(p.Defs, api.ScopeDef{}) }),
-		changed(func(p *api.ScopeProg) { p.Defs[0].Chans[0].Many = 4 }),
-		changed(func(p *api.ScopeProg) { p.Defs[0].Rules[1].Joins[1] = 3 }),
-		changed(func(p *api.ScopeProg) { p.Defs[0].Rules[0].Node = 99 }),
-		changed(func(p *api.ScopeProg) { p.Nodes[6].Args[0].N = 4 }),
-		changed(func(p *api.ScopeProg) { p.Nodes[6].Args[0] = circle[0] }),
-	}
-}
 
 // misfits are tables that are not as defined for the example.
 func misfits() [][]api.UsageDef {

@@ -6,6 +6,7 @@ import (
 	"testing"
 
 	"cabotage/api"
+	"cabotage/internal/sample"
 	"cabotage/usage"
 )
 
@@ -166,7 +167,7 @@ func TestSendsRefused(t *testing.T) {
 			t.Error(p, node, place, n, e)
 		}
 	}
-	for _, p := range unformed() {
+	for _, p := range sample.Unformed(example) {
 		refused(p, table(found), 0, 0)
 		refused(p, nil, 0, 0)
 		unsure(p, 0, 0)

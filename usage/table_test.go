@@ -5,6 +5,7 @@ import (
 	"testing"
 
 	"cabotage/api"
+	"cabotage/internal/sample"
 	"cabotage/usage"
 )
 
@@ -132,7 +133,7 @@ func TestTableOfMade(t *testing.T) {
 
 // P5.2: what is refused.
 func TestTableRefused(t *testing.T) {
-	for _, p := range unformed() {
+	for _, p := range sample.Unformed(example) {
 		if u, e := usage.Table(p); len(u) > 0 || e != api.ErrArg {
 			t.Error(p, u, e)
 		}
