@@ -181,16 +181,6 @@ func TestCheckOfOthers(t *testing.T) {
 	}
 }
 
-// spread is a program of one definition without rules: so many places.
-func spread(places int) api.ScopeProg {
-	p := api.ScopeProg{Nodes: []api.ScopeNode{{Op: api.TermDef, Kids: []int{1}}, {Op: api.TermNil}}, Defs: make([]api.ScopeDef, 1)}
-	for range places {
-		p.Defs[0].Spots = append(p.Defs[0].Spots, api.ScopeSpot{Node: len(p.Nodes)})
-		p.Nodes = append(p.Nodes, api.ScopeNode{Op: api.TermNil})
-	}
-	return p
-}
-
 // P6.1: as many places, groups and channels as there can be, and one more.
 func TestCheckOfLimits(t *testing.T) {
 	for places, want := range map[int]api.Errno{23: api.OK, 24: api.ErrArg} {
@@ -257,7 +247,7 @@ func TestCheckOfMade(t *testing.T) {
 		for range 12 {
 			u := copied(s)
 			for range 1 + r.Intn(2) {
-				disturb(r, p, &u)
+				sample.Disturb(r.Intn, len(p.Nodes), &u)
 			}
 			switch e := sol.Check(p, u); {
 			case e == api.OK && formed(p, u):
@@ -271,94 +261,6 @@ func TestCheckOfMade(t *testing.T) {
 	})
 	if yes < 4000 || no < 8000 {
 		t.Error("too few:", yes, no)
-	}
-}
-
-// anyOf calls f with something of a list, if there is anything.
-func anyOf[T any](r *rand.Rand, l []T, f func(x *T)) {
-	if len(l) > 0 {
-		f(&l[r.Intn(len(l))])
-	}
-}
-
-// altered returns a list that is shorter, longer or in another order.
-func altered[T any](r *rand.Rand, l []T) []T {
-	if len(l) == 0 {
-		return make([]T, 1)
-	}
-	k := r.Intn(len(l))
-	switch r.Intn(4) {
-	case 0:
-		return slices.Delete(l, k, k+1)
-	case 1:
-		return slices.Insert(l, k, l[k])
-	case 2:
-		return slices.Repeat(l, 1+r.Intn(15))
-	}
-	other := r.Intn(len(l))
-	l[k], l[other] = l[other], l[k]
-	return l
-}
-
-// near changes a number a little.
-func near(r *rand.Rand, n *int) { *n += r.Intn(5) - 2 }
-
-// other changes a value.
-func other(r *rand.Rand, v *api.SolVal) {
-	switch r.Intn(3) {
-	case 0:
-		near(r, &v.N)
-	case 1:
-		v.Kind = api.SolKind(r.Intn(6))
-	default:
-		*v = integer((api.TermMost + r.Intn(2)) * (2*r.Intn(2) - 1))
-	}
-}
-
-// disturb changes something of a solution.
-func disturb(r *rand.Rand, p api.ScopeProg, s *api.Sol) {
-	switch r.Intn(16) {
-	case 0:
-		anyOf(r, s.Spots, func(x *api.SolSpot) { x.In = r.Intn(len(s.Spots)+2) - 1 })
-	case 1:
-		anyOf(r, s.Spots, func(x *api.SolSpot) { x.Dead = !x.Dead })
-	case 2:
-		s.Spots = altered(r, s.Spots)
-	case 3:
-		anyOf(r, s.Groups, func(x *api.SolGroup) { near(r, &x.Def) })
-	case 4:
-		anyOf(r, s.Groups, func(x *api.SolGroup) { x.At = r.Intn(len(s.Spots)+2) - 1 })
-	case 5:
-		anyOf(r, s.Groups, func(x *api.SolGroup) { anyOf(r, x.Env, func(v *api.SolVal) { other(r, v) }) })
-	case 6:
-		anyOf(r, s.Groups, func(x *api.SolGroup) { x.Env = altered(r, x.Env) })
-	case 7:
-		s.Groups = altered(r, s.Groups)
-	case 8:
-		anyOf(r, s.Chans, func(x *api.SolQ) {
-			near(r, []*int{&x.Group, &x.Index, &x.At}[r.Intn(3)])
-		})
-	case 9:
-		anyOf(r, s.Chans, func(x *api.SolQ) { x.Queue = altered(r, x.Queue) })
-	case 10:
-		anyOf(r, s.Chans, func(x *api.SolQ) {
-			anyOf(r, x.Queue, func(m *api.SolMsg) { anyOf(r, m.Vals, func(v *api.SolVal) { other(r, v) }) })
-		})
-	case 11:
-		s.Chans = altered(r, s.Chans)
-	case 12:
-		anyOf(r, s.Waits, func(x *api.SolWait) { x.At = r.Intn(len(s.Spots)+2) - 1 })
-	case 13:
-		anyOf(r, s.Waits, func(x *api.SolWait) { x.Node = r.Intn(len(p.Nodes)+2) - 1 })
-	case 14:
-		anyOf(r, s.Waits, func(x *api.SolWait) {
-			if r.Intn(2) == 0 {
-				x.Env = altered(r, x.Env)
-			}
-			anyOf(r, x.Env, func(v *api.SolVal) { other(r, v) })
-		})
-	case 15:
-		s.Waits = altered(r, s.Waits)
 	}
 }
 

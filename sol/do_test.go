@@ -6,6 +6,7 @@ import (
 	"testing"
 
 	"cabotage/api"
+	"cabotage/internal/sample"
 	"cabotage/sol"
 )
 
@@ -219,7 +220,7 @@ func TestDoOfOthers(t *testing.T) {
 			x := api.SolStep{Wait: r.Intn(4) - 1, Group: r.Intn(2), Rule: r.Intn(2), Picks: make([]int, r.Intn(3))}
 			if len(l) > 0 && r.Intn(2) == 0 {
 				x = l[r.Intn(len(l))]
-				near(r, []*int{&x.Wait, &x.Group, &x.Rule}[r.Intn(3)])
+				sample.Near(r.Intn, []*int{&x.Wait, &x.Group, &x.Rule}[r.Intn(3)])
 			}
 			is := slices.ContainsFunc(l, func(y api.SolStep) bool { return showStep(y) == showStep(x) })
 			u, seen, e := sol.Do(p, s, x)

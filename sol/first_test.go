@@ -70,44 +70,6 @@ func TestFirstOfMade(t *testing.T) {
 	}
 }
 
-// linked is a program of definitions around each other, each with as many channels as some number says; three of them in a rule.
-func linked(many ...int) api.ScopeProg {
-	var p api.ScopeProg
-	for i, chans := range many {
-		at := len(p.Nodes)
-		p.Nodes = append(p.Nodes, api.ScopeNode{Op: api.TermDef, N: i, Kids: []int{0}})
-		d := api.ScopeDef{Chans: make([]api.ScopeChan, chans)}
-		for j := 0; j < chans; j += 3 {
-			r := api.ScopeRule{Node: len(p.Nodes)}
-			for k := range min(3, chans-j) {
-				r.Joins = append(r.Joins, j+k)
-			}
-			d.Rules = append(d.Rules, r)
-			p.Nodes = append(p.Nodes, api.ScopeNode{Op: api.TermNil})
-		}
-		p.Defs = append(p.Defs, d)
-		p.Nodes[at].Kids[0] = len(p.Nodes)
-	}
-	p.Nodes = append(p.Nodes, api.ScopeNode{Op: api.TermNil})
-	return p
-}
-
-// stopping is spread, but with processes that wait in so many places, and so many of them in the place 0.
-func stopping(places, beside int) api.ScopeProg {
-	p := spread(places)
-	for i := range places {
-		p.Nodes[2+i].Op = api.TermStop
-	}
-	p.Nodes[1].Op = api.TermStop
-	last := 1
-	for range beside - 1 {
-		p.Nodes[last] = api.ScopeNode{Op: api.TermPar, Kids: []int{len(p.Nodes), len(p.Nodes) + 1}}
-		p.Nodes = append(p.Nodes, api.ScopeNode{Op: api.TermStop}, api.ScopeNode{Op: api.TermStop})
-		last = len(p.Nodes) - 1
-	}
-	return p
-}
-
 // P6.2: as much as there can be at first, and one more.
 func TestFirstTooMuch(t *testing.T) {
 	messages := "def x() = 0 in " + beside("x()", 12)

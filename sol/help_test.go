@@ -2,8 +2,6 @@ package sol_test
 
 import (
 	"fmt"
-	"slices"
-	"strings"
 	"testing"
 
 	"cabotage/api"
@@ -26,13 +24,15 @@ func program(s string) api.ScopeProg {
 	return p
 }
 
-// beside writes a process so many times, without much depth.
-func beside(s string, many int) string {
-	if many == 1 {
-		return s
-	}
-	return "(" + beside(s, many/2) + " | " + beside(s, many-many/2) + ")"
-}
+// What the tests have of package sample.
+var (
+	show, showVals, showEvents = sample.Show, sample.Vals, sample.Events
+	showStep, showSteps        = sample.Step, sample.Steps
+	copied, lists, spoilSol    = sample.Copied, sample.Lists, sample.SpoilSol
+	beside                     = sample.Beside
+	spread, linked, stopping   = sample.Spread, sample.Linked, sample.Stopping
+	crowded                    = sample.Crowded
+)
 
 func integer(n int) api.SolVal { return api.SolVal{Kind: api.SolInt, N: n} }
 
@@ -42,96 +42,11 @@ func channel(n int) api.SolVal { return api.SolVal{Kind: api.SolChan, N: n} }
 
 func place(n int) api.SolVal { return api.SolVal{Kind: api.SolPlace, N: n} }
 
-// showVals writes values: integers as they are, the others as a letter and a number.
-func showVals(l []api.SolVal) string {
-	var out []string
-	for _, v := range l {
-		switch {
-		case v.Kind >= api.SolInt && v.Kind <= api.SolPlace:
-			out = append(out, []string{"", "f", "c", "p"}[v.Kind-api.SolInt]+fmt.Sprint(v.N))
-		default:
-			out = append(out, fmt.Sprint(v))
-		}
-	}
-	return strings.Join(out, " ")
-}
-
-// show writes a solution: the Ins of its places, with a ! for a dead one; groups as definition@place[environment]; channels as group.index@place, with messages in brackets; what waits as node@place[environment].
-func show(s api.Sol) string {
-	var l []string
-	for _, x := range s.Spots {
-		l = append(l, fmt.Sprint(x.In, strings.Repeat("!", number(x.Dead))))
-	}
-	out := strings.Join(l, " ")
-	for _, g := range s.Groups {
-		out += fmt.Sprintf("; %d@%d[%s]", g.Def, g.At, showVals(g.Env))
-	}
-	for _, c := range s.Chans {
-		out += fmt.Sprintf("; %d.%d@%d", c.Group, c.Index, c.At)
-		for _, m := range c.Queue {
-			out += "(" + showVals(m.Vals) + ")"
-		}
-	}
-	for _, x := range s.Waits {
-		out += fmt.Sprintf("; %d@%d[%s]", x.Node, x.At, showVals(x.Env))
-	}
-	return out
-}
-
 func number(is bool) int {
 	if is {
 		return 1
 	}
 	return 0
-}
-
-// showEvents writes events: each as its deed, At, and N; of SolTook the rule behind a dot; values in brackets where there can be any.
-func showEvents(l []api.SolEvent) string {
-	var out []string
-	for _, x := range l {
-		s := fmt.Sprint(x)
-		switch {
-		case x.Deed == api.SolTook:
-			s = fmt.Sprintf("took %d %d.%d(%s)", x.At, x.N, x.M, showVals(x.Vals))
-		case x.Deed == api.SolSaid && x.M == 0:
-			s = fmt.Sprintf("said %d %d(%s)", x.At, x.N, showVals(x.Vals))
-		case x.Deed == api.SolDied && x.N == 0 && x.M == 0 && len(x.Vals) == 0:
-			s = fmt.Sprintf("died %d", x.At)
-		case x.Deed > api.SolTook && x.Deed < api.SolSaid && x.M == 0 && len(x.Vals) == 0:
-			s = fmt.Sprintf("%s %d %d", map[api.SolDeed]string{api.SolWent: "went", api.SolTold: "told"}[x.Deed], x.At, x.N)
-		}
-		out = append(out, s)
-	}
-	return strings.Join(out, ", ")
-}
-
-// showStep writes a step: as the process that waits, or as group.rule and the Picks.
-func showStep(x api.SolStep) string {
-	switch {
-	case x.Wait == -1:
-		return fmt.Sprint(x.Group, ".", x.Rule, x.Picks)
-	case x.Group == 0 && x.Rule == 0 && len(x.Picks) == 0:
-		return fmt.Sprint(x.Wait)
-	}
-	return fmt.Sprintf("%#v", x)
-}
-
-// copied returns a solution that shares no memory with s.
-func copied(s api.Sol) api.Sol {
-	s = api.Sol{Spots: slices.Clone(s.Spots), Groups: slices.Clone(s.Groups), Chans: slices.Clone(s.Chans), Waits: slices.Clone(s.Waits)}
-	for i := range s.Groups {
-		s.Groups[i].Env = slices.Clone(s.Groups[i].Env)
-	}
-	for i := range s.Chans {
-		s.Chans[i].Queue = slices.Clone(s.Chans[i].Queue)
-		for k := range s.Chans[i].Queue {
-			s.Chans[i].Queue[k].Vals = slices.Clone(s.Chans[i].Queue[k].Vals)
-		}
-	}
-	for i := range s.Waits {
-		s.Waits[i].Env = slices.Clone(s.Waits[i].Env)
-	}
-	return s
 }
 
 // firstOf is the solution at first.

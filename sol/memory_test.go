@@ -6,6 +6,7 @@ import (
 	"testing"
 
 	"cabotage/api"
+	"cabotage/internal/sample"
 	"cabotage/sol"
 )
 
@@ -46,33 +47,6 @@ func TestMemoryOfArguments(t *testing.T) {
 	}
 }
 
-// lists are all lists of values of a solution and of events.
-func lists(s api.Sol, events []api.SolEvent) [][]api.SolVal {
-	var l [][]api.SolVal
-	for _, g := range s.Groups {
-		l = append(l, g.Env)
-	}
-	for _, c := range s.Chans {
-		for _, m := range c.Queue {
-			l = append(l, m.Vals)
-		}
-	}
-	for _, x := range s.Waits {
-		l = append(l, x.Env)
-	}
-	for _, x := range events {
-		l = append(l, x.Vals)
-	}
-	return l
-}
-
-// spoil overwrites a list, and what lies behind it.
-func spoil[T any](l []T, with T) {
-	for i := range l[:cap(l)] {
-		l[:cap(l)][i] = with
-	}
-}
-
 // R4: what is returned shares no memory with an argument: not with what stays as it was, nor with what has moved.
 func TestMemoryOfSolutions(t *testing.T) {
 	p := program("def x(a, b) = x(b, a) | y(a) | out(a, b) and y(c) = (def z() = 0 in out(c) | (go c; 0)) and place p { in (watch q; 0) | stop } and place q { in (go p; out(p)) | stop } in x(1, out) | x(x, p) | y(2) | watch p; 0")
@@ -95,36 +69,21 @@ func TestMemoryOfSolutions(t *testing.T) {
 		// What is overwritten of one list is in no other one.
 		for k, long := range lists(u, l) {
 			v, seen, _ := change(s)
-			spoil(lists(v, seen)[k], integer(77))
+			sample.Spoil(lists(v, seen)[k], integer(77))
 			if n := strings.Count(show(v)+showEvents(seen), "77"); n != len(long) {
 				t.Error(i, k, show(v), showEvents(seen))
 			}
 		}
-		spoilSol(&u, l)
+		spoilSol(u, l)
 		if show(s) != was {
 			t.Error(i, "the argument has become", show(s))
 		}
 		u, l, _ = change(s)
-		spoilSol(&s, nil)
+		spoilSol(s, nil)
 		if show(u)+showEvents(l) != want {
 			t.Error(i, "the result has become", show(u), showEvents(l))
 		}
 	}
-}
-
-// spoilSol overwrites all that a solution, and events, refer to.
-func spoilSol(s *api.Sol, events []api.SolEvent) {
-	for _, l := range lists(*s, events) {
-		spoil(l, integer(77))
-	}
-	for _, c := range s.Chans {
-		spoil(c.Queue, api.SolMsg{Vals: []api.SolVal{integer(78)}})
-	}
-	spoil(s.Spots, api.SolSpot{In: 77})
-	spoil(s.Groups, api.SolGroup{Def: 77})
-	spoil(s.Chans, api.SolQ{Group: 77})
-	spoil(s.Waits, api.SolWait{At: 77})
-	spoil(events, api.SolEvent{At: 77})
 }
 
 // R4: the queues of a solution share no memory: a longer one overwrites no other one.
@@ -134,16 +93,16 @@ func TestMemoryOfQueues(t *testing.T) {
 	for k := range s.Chans {
 		u := behind(t, p, s)
 		q := u.Chans[k].Queue
-		spoil(q, api.SolMsg{Vals: []api.SolVal{integer(78)}})
+		sample.Spoil(q, api.SolMsg{Vals: []api.SolVal{integer(78)}})
 		u.Chans[k].Queue = s.Chans[k].Queue
 		if show(u) != show(s) {
 			t.Error(k, show(u))
 		}
 	}
 	x, _ := sol.Nth(p, s, 3)
-	spoil(x.Picks, 77)
+	sample.Spoil(x.Picks, 77)
 	l, _ := sol.Within(s, 0)
-	spoil(l, 77)
+	sample.Spoil(l, 77)
 	if y, e := sol.Nth(p, s, 3); e != api.OK || showStep(y) != "0.1 [0]" {
 		t.Error(showStep(y), e)
 	}

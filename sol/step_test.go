@@ -2,20 +2,11 @@ package sol_test
 
 import (
 	"math/rand"
-	"strings"
 	"testing"
 
 	"cabotage/api"
 	"cabotage/sol"
 )
-
-func showSteps(l []api.SolStep) string {
-	var out []string
-	for _, x := range l {
-		out = append(out, showStep(x))
-	}
-	return strings.Join(out, ", ")
-}
 
 // P6.3: which steps there are, behind some others.
 func TestSteps(t *testing.T) {
@@ -90,23 +81,6 @@ func TestStepsOfMade(t *testing.T) {
 	if waits < 1500 || rules < 1500 {
 		t.Error("too few:", waits, rules)
 	}
-}
-
-// crowded is a solution with many steps: so many groups of a definition of 3 channels with 12 messages each, and 15 rules of all of them.
-func crowded(groups int) (api.ScopeProg, api.Sol) {
-	p := api.ScopeProg{Nodes: []api.ScopeNode{{Op: api.TermDef, Kids: []int{1}}, {Op: api.TermNil}}, Defs: []api.ScopeDef{{Chans: make([]api.ScopeChan, 3)}}}
-	for range 15 {
-		p.Defs[0].Rules = append(p.Defs[0].Rules, api.ScopeRule{Joins: []int{2, 0, 1}, Node: len(p.Nodes)})
-		p.Nodes = append(p.Nodes, api.ScopeNode{Op: api.TermNil})
-	}
-	s := api.Sol{Spots: []api.SolSpot{{In: -1}}}
-	for g := range groups {
-		s.Groups = append(s.Groups, api.SolGroup{Env: []api.SolVal{channel(3 * g), channel(3*g + 1), channel(3*g + 2)}})
-		for i := range 3 {
-			s.Chans = append(s.Chans, api.SolQ{Group: g, Index: i, Queue: make([]api.SolMsg, 12)})
-		}
-	}
-	return p, s
 }
 
 // P6.3: steps that are too many to be gone through again and again.

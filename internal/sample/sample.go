@@ -1,4 +1,4 @@
-// Package sample makes programs and solutions for the tests of the layers.
+// Package sample makes programs and solutions for the tests of the layers, changes and spoils them, and writes them down.
 package sample
 
 import (
